@@ -1,6 +1,8 @@
 """The calls over short texts: each text is a list of at most 31 bytes, each answer one list of whole numbers."""
 
 LONGEST = 31
+# How far a small letter lies behind its capital.
+BEHIND_CAPITAL = 32
 
 
 def text_answer(whole):
@@ -33,3 +35,79 @@ def last(t, p):
         if t[place:place + len(p)] == p:
             return [place]
     return [-1]
+
+
+def places(t, p):
+    found = []
+    place = find(0, t, p)[0]
+    while place >= 0:
+        found.append(place)
+        # The empty p takes no room, yet its next place lies one further on.
+        place = find(place + max(len(p), 1), t, p)[0]
+    return found
+
+
+def count(t, p):
+    return [len(places(t, p))]
+
+
+def replace(t, p, r):
+    # The empty p has places too, but none of them is replaced.
+    if len(p) == 0:
+        return text_answer(t)
+    whole = []
+    behind = 0
+    for place in places(t, p):
+        whole = whole + t[behind:place] + r
+        behind = place + len(p)
+    return text_answer(whole + t[behind:])
+
+
+def small(byte):
+    return byte + BEHIND_CAPITAL if 65 <= byte <= 90 else byte
+
+
+def capital(byte):
+    return byte - BEHIND_CAPITAL if 97 <= byte <= 122 else byte
+
+
+def other_case(byte):
+    return small(byte) if capital(byte) == byte else capital(byte)
+
+
+def is_letter(byte):
+    # Letters alone have two forms.
+    return small(byte) != capital(byte)
+
+
+def words_begun(t):
+    whole = []
+    behind_letter = False
+    for byte in t:
+        whole.append(small(byte) if behind_letter else capital(byte))
+        behind_letter = is_letter(byte)
+    return whole
+
+
+def cased(how, t):
+    if how == 0:
+        return text_answer([small(byte) for byte in t])
+    if how == 1:
+        return text_answer([capital(byte) for byte in t])
+    if how == 2:
+        return text_answer([other_case(byte) for byte in t])
+    if how == 3:
+        return text_answer(words_begun(t))
+    return text_answer(t)
+
+
+def trim(how, t, some):
+    begin = 0
+    end = len(t)
+    if how & 1 != 0:
+        while begin < end and t[begin] in some:
+            begin += 1
+    if how & 2 != 0:
+        while end > begin and t[end - 1] in some:
+            end -= 1
+    return text_answer(t[begin:end])

@@ -2,6 +2,10 @@
 
 import unittest
 
+# The least and the greatest int of the document.
+LEAST = -2147483648
+MOST = 2147483647
+
 
 def refuse(self, *args, **kwargs):
     raise AssertionError("what was handed in was changed")

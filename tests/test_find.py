@@ -1,11 +1,8 @@
 import itertools
 import unittest
 
-from calls import CallCase, of
+from calls import LEAST, MOST, CallCase, of
 from shorttextsdesk.texts import find
-
-LEAST = -2147483648
-MOST = 2147483647
 
 
 class FindTest(CallCase):

@@ -15,6 +15,10 @@ INTERFACE = {
     "part": ["begin", "n", "t"],
     "find": ["begin", "t", "p"],
     "last": ["t", "p"],
+    "count": ["t", "p"],
+    "replace": ["t", "p", "r"],
+    "cased": ["how", "t"],
+    "trim": ["how", "t", "some"],
 }
 BUILT_IN_NAMES_OF_L8 = """
     len range enumerate zip min max sum abs sorted reversed int str bool list tuple dict set frozenset isinstance ord

@@ -1,10 +1,8 @@
 import unittest
 
-from calls import CallCase, of, text_answer
+from calls import LEAST, MOST, CallCase, of, text_answer
 from shorttextsdesk.texts import part
 
-LEAST = -2147483648
-MOST = 2147483647
 WORD = of("abcde")
 FULL = list(range(100, 131))
 
