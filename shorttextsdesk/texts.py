@@ -67,6 +67,10 @@ def small(byte):
     return byte + BEHIND_CAPITAL if 65 <= byte <= 90 else byte
 
 
+def all_small(t):
+    return [small(byte) for byte in t]
+
+
 def capital(byte):
     return byte - BEHIND_CAPITAL if 97 <= byte <= 122 else byte
 
@@ -91,7 +95,7 @@ def words_begun(t):
 
 def cased(how, t):
     if how == 0:
-        return text_answer([small(byte) for byte in t])
+        return text_answer(all_small(t))
     if how == 1:
         return text_answer([capital(byte) for byte in t])
     if how == 2:
@@ -111,3 +115,32 @@ def trim(how, t, some):
         while end > begin and t[end - 1] in some:
             end -= 1
     return text_answer(t[begin:end])
+
+
+def turn(t):
+    return text_answer(list(reversed(t)))
+
+
+def only(how, t, some):
+    wanted = how == 0
+    return text_answer([byte for byte in t if (byte in some) == wanted])
+
+
+def mask(t, some):
+    return [sum([1 << place for place, byte in enumerate(t) if byte in some])]
+
+
+def order(a, b):
+    # Lists compare as the document asks: by the first that differs, a beginning before what it begins.
+    if a < b:
+        return -1
+    return 1 if a > b else 0
+
+
+def compare(how, a, b):
+    if how == 0:
+        return [order(a, b)]
+    if how == 1:
+        return [order(all_small(a), all_small(b))]
+    # Set ahead of the bytes, the lengths decide first.
+    return [order([len(a)] + a, [len(b)] + b)]

@@ -19,6 +19,10 @@ INTERFACE = {
     "replace": ["t", "p", "r"],
     "cased": ["how", "t"],
     "trim": ["how", "t", "some"],
+    "turn": ["t"],
+    "only": ["how", "t", "some"],
+    "mask": ["t", "some"],
+    "compare": ["how", "a", "b"],
 }
 BUILT_IN_NAMES_OF_L8 = """
     len range enumerate zip min max sum abs sorted reversed int str bool list tuple dict set frozenset isinstance ord
