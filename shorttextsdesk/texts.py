@@ -3,6 +3,19 @@
 LONGEST = 31
 # How far a small letter lies behind its capital.
 BEHIND_CAPITAL = 32
+ESCAPE = 92
+QUESTION_MARK = 63
+STAR = 42
+PLUS = 43
+MINUS = 45
+# What like may be asked for beside a byte itself: above all bytes, so that an escaped sign is not taken for it.
+ANY_BYTE = 256
+ANY_RUN = 257
+ZERO = 48
+# Small a (97) is the digit worth ten.
+BEFORE_LETTERS = 87
+# Above the worth of every digit, so that every base refuses it.
+NO_DIGIT = 36
 
 
 def text_answer(whole):
@@ -144,3 +157,84 @@ def compare(how, a, b):
         return [order(all_small(a), all_small(b))]
     # Set ahead of the bytes, the lengths decide first.
     return [order([len(a)] + a, [len(b)] + b)]
+
+
+def asked_of(p):
+    asked = []
+    place = 0
+    while place < len(p):
+        byte = p[place]
+        if byte == ESCAPE and place + 1 < len(p):
+            place += 1
+            asked.append(p[place])
+        elif byte == QUESTION_MARK:
+            asked.append(ANY_BYTE)
+        elif byte == STAR:
+            asked.append(ANY_RUN)
+        else:
+            asked.append(byte)
+        place += 1
+    return asked
+
+
+def like(t, p):
+    # For each place of t: whether what p has asked for so far can end there. All places are followed side by side,
+    # so nothing is tried again, however many stars p has.
+    ends = [True] + [False] * len(t)
+    for asked in asked_of(p):
+        if asked == ANY_RUN:
+            ends = [True in ends[:place + 1] for place in range(len(ends))]
+        else:
+            ends = [False] + [ends[place] and asked in (ANY_BYTE, byte) for place, byte in enumerate(t)]
+    return [1 if ends[len(t)] else 0]
+
+
+def is_base(base):
+    return 2 <= base <= 36
+
+
+def worth_of(byte):
+    if ZERO <= byte <= ZERO + 9:
+        return byte - ZERO
+    return small(byte) - BEFORE_LETTERS if is_letter(byte) else NO_DIGIT
+
+
+def digit_of(worth):
+    return worth + ZERO if worth < 10 else worth + BEFORE_LETTERS
+
+
+def number(base, t):
+    if not is_base(base):
+        return [-2]
+    begin = 1 if len(t) > 0 and t[0] in (PLUS, MINUS) else 0
+    worths = [worth_of(byte) for byte in t[begin:]]
+    # Ahead of the range: what is no number is refused as such, however many digits it has.
+    if len(worths) == 0 or max(worths) >= base:
+        return [-3]
+    value = 0
+    for worth in worths:
+        value = value * base + worth
+    if t[0] == MINUS:
+        value = -value
+    return [0, value] if -(2 ** 63) <= value < 2 ** 63 else [-7]
+
+
+def digits(v, base):
+    if not is_base(base):
+        return text_answer([])
+    rest = abs(v)
+    # From the last digit on; 0 has one too.
+    found = [digit_of(rest % base)]
+    while rest >= base:
+        rest = rest // base
+        found.append(digit_of(rest % base))
+    if v < 0:
+        found.append(MINUS)
+    return text_answer(list(reversed(found)))
+
+
+def hex_of(t):
+    whole = []
+    for byte in t:
+        whole.extend([digit_of(byte // 16), digit_of(byte % 16)])
+    return text_answer(whole)

@@ -5,6 +5,24 @@ import unittest
 # The least and the greatest int of the document.
 LEAST = -2147483648
 MOST = 2147483647
+# The least and the greatest long.
+LEAST_LONG = -9223372036854775808
+MOST_LONG = 9223372036854775807
+ALL_BASES = range(2, 37)
+NO_BASES = (-1, 0, 1, 37, LEAST, MOST, -2, -10, -16, -36, 38, 64, 256, LEAST + 10, MOST - 1)
+DIGITS = "0123456789abcdefghijklmnopqrstuvwxyz"
+# By base: 2^63 - 1, 2^63 and 2^63 + 1. Below base 5 they have more than 31 digits.
+AROUND_THE_EDGE = {
+    5: ("1104332401304422434310311212", "1104332401304422434310311213", "1104332401304422434310311214"),
+    8: ("777777777777777777777", "1000000000000000000000", "1000000000000000000001"),
+    9: ("67404283172107811827", "67404283172107811828", "67404283172107811830"),
+    10: ("9223372036854775807", "9223372036854775808", "9223372036854775809"),
+    16: ("7fffffffffffffff", "8000000000000000", "8000000000000001"),
+    19: ("ba643dci0ffeehh", "ba643dci0ffeehi", "ba643dci0ffeei0"),
+    32: ("7vvvvvvvvvvvv", "8000000000000", "8000000000001"),
+    35: ("2pijmikexrxp7", "2pijmikexrxp8", "2pijmikexrxp9"),
+    36: ("1y2p0ij32e8e7", "1y2p0ij32e8e8", "1y2p0ij32e8e9"),
+}
 
 
 def refuse(self, *args, **kwargs):

@@ -23,6 +23,10 @@ INTERFACE = {
     "only": ["how", "t", "some"],
     "mask": ["t", "some"],
     "compare": ["how", "a", "b"],
+    "like": ["t", "p"],
+    "number": ["base", "t"],
+    "digits": ["v", "base"],
+    "hex_of": ["t"],
 }
 BUILT_IN_NAMES_OF_L8 = """
     len range enumerate zip min max sum abs sorted reversed int str bool list tuple dict set frozenset isinstance ord
