@@ -238,3 +238,41 @@ def hex_of(t):
     for byte in t:
         whole.extend([digit_of(byte // 16), digit_of(byte % 16)])
     return text_answer(whole)
+
+
+def unhex(t):
+    worths = [worth_of(byte) for byte in t]
+    if len(t) % 2 != 0 or max(worths, default=0) >= 16:
+        return text_answer([])
+    return text_answer([worths[place] * 16 + worths[place + 1] for place in range(0, len(t), 2)])
+
+
+def hash_of(t):
+    mixed = 14695981039346656037
+    for byte in t:
+        mixed = (mixed ^ byte) * 1099511628211 % 2 ** 64
+    return [mixed]
+
+
+def texts_answer(rows):
+    answer = [len(rows)]
+    for row in rows:
+        answer.extend(text_answer(row))
+    return answer
+
+
+def split(c, t):
+    if c < 0 or c > 255:
+        return [-2]
+    pieces = [[]]
+    for byte in t:
+        if byte == c:
+            pieces.append([])
+        else:
+            pieces[-1].append(byte)
+    return texts_answer(pieces)
+
+
+def sort(rows):
+    # Lists by themselves stand in compare's order of how 0.
+    return texts_answer(sorted(rows))

@@ -2,6 +2,29 @@
 
 import unittest
 
+# The document's functions, each with its parameters.
+INTERFACE = {
+    "join": ["a", "b"],
+    "part": ["begin", "n", "t"],
+    "find": ["begin", "t", "p"],
+    "last": ["t", "p"],
+    "count": ["t", "p"],
+    "replace": ["t", "p", "r"],
+    "cased": ["how", "t"],
+    "trim": ["how", "t", "some"],
+    "turn": ["t"],
+    "only": ["how", "t", "some"],
+    "mask": ["t", "some"],
+    "compare": ["how", "a", "b"],
+    "like": ["t", "p"],
+    "number": ["base", "t"],
+    "digits": ["v", "base"],
+    "hex_of": ["t"],
+    "unhex": ["t"],
+    "hash_of": ["t"],
+    "split": ["c", "t"],
+    "sort": ["rows"],
+}
 # The least and the greatest int of the document.
 LEAST = -2147483648
 MOST = 2147483647
@@ -37,11 +60,11 @@ class Guarded(list):
 
 
 def copied(value):
-    return list(value) if isinstance(value, list) else value
+    return [copied(within) for within in value] if isinstance(value, list) else value
 
 
 def guarded(value):
-    return Guarded(value) if isinstance(value, list) else value
+    return Guarded([guarded(within) for within in value]) if isinstance(value, list) else value
 
 
 def of(text):
@@ -53,12 +76,21 @@ def text_answer(wanted):
     return [len(wanted)] + wanted
 
 
+def texts_answer(wanted):
+    return [len(wanted)] + [value for row in wanted for value in text_answer(row)]
+
+
 class CallCase(unittest.TestCase):
+    def same(self, answer, wanted, call, args):
+        # Of long lists, assertEqual takes minutes to tell the difference.
+        if answer != wanted:
+            self.fail("{}{} answered {}, not {}".format(call.__name__, args, answer, wanted))
+
     def check(self, call, args, wanted):
         """The call answers what is wanted, each time, and leaves what was handed in as it was."""
         handed = [copied(arg) for arg in args]
         first = call(*handed)
-        self.assertEqual(first, wanted, (call.__name__, args))
+        self.same(first, wanted, call, args)
         self.assertEqual(handed, list(args))
         self.assertIs(type(first), list)
         for value in first:
@@ -67,5 +99,5 @@ class CallCase(unittest.TestCase):
         first.append(77)
         first[0] = 99
         self.assertEqual(handed, list(args))
-        self.assertEqual(call(*handed), wanted, (call.__name__, args))
-        self.assertEqual(call(*[guarded(arg) for arg in args]), wanted, (call.__name__, args))
+        self.same(call(*handed), wanted, call, args)
+        self.same(call(*[guarded(arg) for arg in args]), wanted, call, args)

@@ -7,27 +7,10 @@ import pathlib
 import unittest
 
 import shorttextsdesk
+from calls import INTERFACE
 from shorttextsdesk import texts
 
 PACKAGE = pathlib.Path(shorttextsdesk.__file__).parent
-INTERFACE = {
-    "join": ["a", "b"],
-    "part": ["begin", "n", "t"],
-    "find": ["begin", "t", "p"],
-    "last": ["t", "p"],
-    "count": ["t", "p"],
-    "replace": ["t", "p", "r"],
-    "cased": ["how", "t"],
-    "trim": ["how", "t", "some"],
-    "turn": ["t"],
-    "only": ["how", "t", "some"],
-    "mask": ["t", "some"],
-    "compare": ["how", "a", "b"],
-    "like": ["t", "p"],
-    "number": ["base", "t"],
-    "digits": ["v", "base"],
-    "hex_of": ["t"],
-}
 BUILT_IN_NAMES_OF_L8 = """
     len range enumerate zip min max sum abs sorted reversed int str bool list tuple dict set frozenset isinstance ord
     repr any all divmod Exception ValueError TypeError KeyError IndexError LookupError ZeroDivisionError
@@ -72,6 +55,18 @@ class FormTest(unittest.TestCase):
     def test_nothing_is_imported(self):
         for path, node in package_nodes():
             self.assertNotIsInstance(node, (ast.Import, ast.ImportFrom), path)
+
+    def test_nothing_could_be_kept(self):
+        # Whatever is kept from one call to the next lies in a name or value of the module, or on a function.
+        for name, value in vars(texts).items():
+            if inspect.isfunction(value):
+                self.assertEqual((value.__defaults__, value.__closure__), (None, None), name)
+            elif not name.startswith("__"):
+                self.assertIs(type(value), int, name)
+        for path, node in package_nodes():
+            self.assertNotIsInstance(node, (ast.Global, ast.Nonlocal), path)
+            if isinstance(node, ast.Attribute):
+                self.assertIsInstance(node.ctx, ast.Load, (path, node.lineno))
 
     def test_only_built_in_names_of_the_language(self):
         for path, node in package_nodes():
