@@ -1,7 +1,10 @@
 """What the tests of all calls share."""
 
+import signal
 import unittest
 
+# Each test ends in far less; a call that goes on and on fails its test then.
+SECONDS_FOR_A_TEST = 20
 # The document's functions, each with its parameters.
 INTERFACE = {
     "join": ["a", "b"],
@@ -80,7 +83,17 @@ def texts_answer(wanted):
     return [len(wanted)] + [value for row in wanted for value in text_answer(row)]
 
 
+def too_long(number, frame):
+    raise AssertionError("a call did not come to an end")
+
+
 class CallCase(unittest.TestCase):
+    def setUp(self):
+        before = signal.signal(signal.SIGALRM, too_long)
+        self.addCleanup(signal.signal, signal.SIGALRM, before)
+        self.addCleanup(signal.alarm, 0)
+        signal.alarm(SECONDS_FOR_A_TEST)
+
     def same(self, answer, wanted, call, args):
         # Of long lists, assertEqual takes minutes to tell the difference.
         if answer != wanted:
